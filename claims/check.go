@@ -13,6 +13,20 @@ func IsName(text string) bool {
 	return len(text) >= 1 && len(text) <= api.MaxName && utf8.ValidString(text)
 }
 
+// IsPlainName tells whether a text may be the name of a key or of a client.
+func IsPlainName(text string) bool {
+	for i := range len(text) {
+		if !isDigit(text[i]) && !isSmallLetter(text[i]) {
+			return false
+		}
+	}
+	return len(text) >= 1 && len(text) <= api.MaxName
+}
+
+func isSmallLetter(c byte) bool {
+	return c >= 'a' && c <= 'z'
+}
+
 // IsList tells whether texts are a list of names.
 func IsList(texts []string) bool {
 	if len(texts) > api.MaxList {

@@ -69,6 +69,23 @@ func TestNames(t *testing.T) {
 	}
 }
 
+func TestPlainNames(t *testing.T) {
+	for b := range 256 {
+		c := string([]byte{byte(b)})
+		want := strings.Contains("abcdefghijklmnopqrstuvwxyz0123456789", c)
+		for _, s := range []string{c, "a" + c, c + "9", strings.Repeat(c, api.MaxName)} {
+			if IsPlainName(s) != want {
+				t.Errorf("P5: %q is plain: %v", s, !want)
+			}
+		}
+	}
+	for _, s := range []string{"", "é", strings.Repeat("x", api.MaxName+1), strings.Repeat("x", 100000), "a b"} {
+		if IsPlainName(s) {
+			t.Errorf("P5: %q is plain", s)
+		}
+	}
+}
+
 func TestLists(t *testing.T) {
 	six := []string{"1", "2", "3", "4", "5", "6"}
 	for _, l := range [][]string{nil, {}, {"a"}, {"a", "A"}, {"é", "e\u0301"}, six} {

@@ -5,6 +5,9 @@ import (
 	"mandate/api"
 	"mandate/claims"
 	"mandate/digest"
+	"mandate/ledger"
+	"mandate/roster"
+	"mandate/seal"
 	"mandate/sixbit"
 )
 
@@ -24,20 +27,58 @@ func Print(c api.Claims) (string, api.Errno) { return claims.Print(c) }
 func Parse(text string) (api.Claims, api.Errno) { return claims.Parse(text) }
 
 // Server gives tokens.
-type Server struct{}
+type Server struct {
+	now     int
+	keys    *seal.Ring
+	clients *roster.Roster
+	known   ledger.Ledger
+}
 
 // New makes a server (P5).
-func New(keys []api.Key, clients []api.Client) (*Server, api.Errno) { return nil, api.OK }
+func New(keys []api.Key, clients []api.Client) (*Server, api.Errno) {
+	ring, errno := seal.NewRing(keys)
+	if errno != api.OK {
+		return nil, errno
+	}
+	list, errno := roster.New(clients)
+	if errno != api.OK {
+		return nil, errno
+	}
+	return &Server{keys: ring, clients: list}, api.OK
+}
 
 // Tick sets the time (P5).
-func (s *Server) Tick(now int) api.Errno { return api.OK }
+func (s *Server) Tick(now int) api.Errno {
+	if now < s.now || now > api.MaxNumber {
+		return api.ErrArg
+	}
+	s.now = now
+	return api.OK
+}
 
 // Use signs with a key from now on (P5).
-func (s *Server) Use(key string) api.Errno { return api.OK }
+func (s *Server) Use(key string) api.Errno { return s.keys.Use(key) }
 
 // Consent gives a first token (P7).
 func (s *Server) Consent(who api.Login, subject string, scopes, targets []string, life int) (string, api.Errno) {
-	return "", api.OK
+	client, errno := s.clients.Login(who)
+	if errno != api.OK {
+		return "", errno
+	}
+	if !claims.IsName(subject) || !claims.IsList(scopes) || !claims.IsList(targets) {
+		return "", api.ErrForm
+	}
+	if !areSomeAllowed(scopes, client.MayHaveScope) {
+		return "", api.ErrScope
+	}
+	if !areSomeAllowed(targets, client.MayHaveTarget) {
+		return "", api.ErrTarget
+	}
+	if errno := s.checkRoom(life); errno != api.OK {
+		return "", errno
+	}
+	c := api.Claims{Subject: subject, Scopes: scopes, Targets: targets, Expiry: s.now + life}
+	return s.give(c, client, nil), api.OK
 }
 
 // Exchange gives a token for another one (P8).
@@ -47,7 +88,16 @@ func (s *Server) Exchange(who api.Login, token string, actor string, scopes, tar
 
 // Look tells the claims of a token that is taken (P9).
 func (s *Server) Look(who api.Login, token string) (api.Claims, bool, api.Errno) {
-	return api.Claims{}, false, api.OK
+	var told api.Claims
+	isTaken := false
+	errno := s.run(who, token, errand{
+		taken: func(g *ledger.Grant) api.Errno {
+			told, isTaken = g.Claims(), true
+			return api.OK
+		},
+		refused: func(api.Errno) api.Errno { return api.OK },
+	})
+	return told, isTaken, errno
 }
 
 // Revoke takes a token back (P9).
