@@ -17,11 +17,16 @@ const (
 	wantEnd
 )
 
-// Parse answers the claims that text is a text of; ErrForm, if there are none.
+// Parse is Read, but for texts of more than MaxText bytes: these are ErrForm, too.
 func Parse(text string) (api.Claims, api.Errno) {
 	if len(text) > api.MaxText {
 		return api.Claims{}, api.ErrForm
 	}
+	return Read(text)
+}
+
+// Read answers the claims that text, however long, is a text of; ErrForm, if there are none.
+func Read(text string) (api.Claims, api.Errno) {
 	c, ok := readObject(text)
 	if !ok || !areClaims(c) {
 		return api.Claims{}, api.ErrForm

@@ -232,13 +232,17 @@ func TestATokenIsTakenHoweverItsClaimsAreWritten(t *testing.T) {
 	}
 }
 
-func TestATokenWithTheLongestTextIsTaken(t *testing.T) {
+// MaxText is a limit of Parse alone: a text of claims is one, however long it is.
+func TestATokenWithALongTextIsTaken(t *testing.T) {
 	s := newServer(t)
 	mustConsent(t, s, 10)
 	text := plain(t, given(1, 10))
-	blanks := strings.Repeat(" ", api.MaxText-len(text))
-	mustLook(t, s, signed(twoKeys()[0], text+blanks), given(1, 10))
-	mustNotLook(t, s, signed(twoKeys()[0], text+blanks+" "), api.ErrForm) // no text of claims for Parse either
+	for _, length := range []int{api.MaxText, api.MaxText + 1, 100 * api.MaxText} {
+		blanks := strings.Repeat(" ", length-len(text))
+		mustLook(t, s, signed(twoKeys()[0], text+blanks), given(1, 10))
+		mustLook(t, s, signed(twoKeys()[0], "{"+blanks+text[1:]), given(1, 10))
+		mustNotLook(t, s, signed(twoKeys()[0], text+blanks+"x"), api.ErrForm)
+	}
 }
 
 func TestOtherClaimsAreNotTaken(t *testing.T) {
