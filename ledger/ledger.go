@@ -5,12 +5,13 @@ import (
 	"slices"
 
 	"mandate/api"
+	"mandate/roster"
 )
 
 // Grant is a token that was given.
 type Grant struct {
-	Holder  string // the name of the client that it was given to
-	Parent  *Grant // nil, if it has none
+	Holder  *roster.Client // the client that it was given to
+	Parent  *Grant         // nil, if it has none
 	Revoked bool
 	claims  api.Claims
 }
@@ -41,7 +42,7 @@ func (l *Ledger) IsFull() bool {
 }
 
 // Add keeps a grant of these claims, with the next Id, and answers it.
-func (l *Ledger) Add(c api.Claims, holder string, parent *Grant) *Grant {
+func (l *Ledger) Add(c api.Claims, holder *roster.Client, parent *Grant) *Grant {
 	g := &Grant{Holder: holder, Parent: parent, claims: copied(c)}
 	g.claims.Id = len(l.grants) + 1
 	l.grants = append(l.grants, g)

@@ -4,7 +4,10 @@ import (
 	"testing"
 
 	"mandate/api"
+	"mandate/roster"
 )
+
+var holder = &roster.Client{Name: "holder"}
 
 func full() api.Claims {
 	return api.Claims{Subject: "ann", Scopes: []string{"r", "w"}, Targets: []string{"t", "u"}, Actors: []string{"bob", "eve"}, Expiry: 10}
@@ -18,9 +21,9 @@ func TestAddAndFind(t *testing.T) {
 		}
 		c := full()
 		c.Id = 77
-		g := l.Add(c, "holder", nil)
+		g := l.Add(c, holder, nil)
 		c.Id = i
-		if !areSame(g.Claims(), c) || g.Holder != "holder" || g.Parent != nil || g.Revoked {
+		if !areSame(g.Claims(), c) || g.Holder != holder || g.Parent != nil || g.Revoked {
 			t.Errorf("P6: grant %d is %+v", i, g)
 		}
 		if l.Find(c) != g {
@@ -41,10 +44,10 @@ func TestAddAndFind(t *testing.T) {
 
 func TestFindAsksForAllClaims(t *testing.T) {
 	var l Ledger
-	l.Add(full(), "holder", nil)
+	l.Add(full(), holder, nil)
 	other := full()
 	other.Subject = "joe"
-	l.Add(other, "holder", nil)
+	l.Add(other, holder, nil)
 	for i, change := range []func(c *api.Claims){
 		func(c *api.Claims) { c.Id = 2 },
 		func(c *api.Claims) { c.Subject = "joe" },
@@ -69,7 +72,7 @@ func TestEmptyListsAreTheSame(t *testing.T) {
 	var l Ledger
 	c := full()
 	c.Actors = nil
-	l.Add(c, "holder", nil)
+	l.Add(c, holder, nil)
 	c.Id, c.Actors = 1, []string{}
 	if l.Find(c) == nil {
 		t.Errorf("P2: a list without an element is found only as nil")
@@ -83,7 +86,7 @@ func TestIsAlive(t *testing.T) {
 		var last *Grant
 		var line []*Grant
 		for _, expiry := range expiries {
-			last = l.Add(api.Claims{Subject: "ann", Expiry: expiry}, "holder", last)
+			last = l.Add(api.Claims{Subject: "ann", Expiry: expiry}, holder, last)
 			line = append(line, last)
 		}
 		if revoked >= 0 {
@@ -112,7 +115,7 @@ func spoil(list []string) {
 func TestListsAreNotShared(t *testing.T) {
 	var l Ledger
 	c := full()
-	g := l.Add(c, "holder", nil)
+	g := l.Add(c, holder, nil)
 	want := full()
 	want.Id = 1
 	for _, handed := range []api.Claims{c, g.Claims()} {

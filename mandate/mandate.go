@@ -83,7 +83,16 @@ func (s *Server) Consent(who api.Login, subject string, scopes, targets []string
 
 // Exchange gives a token for another one (P8).
 func (s *Server) Exchange(who api.Login, token string, actor string, scopes, targets []string, life int) (string, api.Errno) {
-	return "", api.OK
+	wanted := wish{actor: actor, scopes: scopes, targets: targets, life: life}
+	given := ""
+	errno := s.run(who, token, errand{
+		taken: func(client *roster.Client, g *ledger.Grant) (errno api.Errno) {
+			given, errno = s.exchange(client, g, wanted)
+			return errno
+		},
+		refused: func(errno api.Errno) api.Errno { return errno },
+	})
+	return given, errno
 }
 
 // Look tells the claims of a token that is taken (P9).
@@ -91,7 +100,7 @@ func (s *Server) Look(who api.Login, token string) (api.Claims, bool, api.Errno)
 	var told api.Claims
 	isTaken := false
 	errno := s.run(who, token, errand{
-		taken: func(g *ledger.Grant) api.Errno {
+		taken: func(_ *roster.Client, g *ledger.Grant) api.Errno {
 			told, isTaken = g.Claims(), true
 			return api.OK
 		},

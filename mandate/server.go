@@ -9,20 +9,21 @@ import (
 
 // errand is what a client brings a token for: what happens with it, if it is taken, and what is answered, if not.
 type errand struct {
-	taken   func(g *ledger.Grant) api.Errno
+	taken   func(client *roster.Client, g *ledger.Grant) api.Errno
 	refused func(errno api.Errno) api.Errno
 }
 
 // run does an errand for a client.
 func (s *Server) run(who api.Login, token string, e errand) api.Errno {
-	if _, errno := s.clients.Login(who); errno != api.OK {
+	client, errno := s.clients.Login(who)
+	if errno != api.OK {
 		return errno
 	}
 	g, errno := s.take(token)
 	if errno != api.OK {
 		return e.refused(errno)
 	}
-	return e.taken(g)
+	return e.taken(client, g)
 }
 
 // take answers the grant of a token that is taken (P6).
@@ -65,7 +66,7 @@ func (s *Server) checkRoom(life int) api.Errno {
 
 // give makes a token of these claims, the Id apart, and answers its text.
 func (s *Server) give(c api.Claims, holder *roster.Client, parent *ledger.Grant) string {
-	g := s.known.Add(c, holder.Name, parent)
+	g := s.known.Add(c, holder, parent)
 	text, _ := claims.Print(g.Claims()) // never refused: what is not of the form does not come here
 	return s.keys.Sign(text)
 }

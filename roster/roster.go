@@ -13,6 +13,7 @@ type Client struct {
 	Name          string
 	MayHaveScope  func(scope string) bool
 	MayHaveTarget func(target string) bool
+	LetsAct       func(subject string) bool // for whoever it holds tokens of
 	secret        string
 }
 
@@ -47,6 +48,7 @@ func newClient(c api.Client) *Client {
 		Name:          c.Name,
 		MayHaveScope:  isAmong(c.Scopes),
 		MayHaveTarget: isAmong(c.Targets),
+		LetsAct:       isAmong(c.Actors),
 		secret:        c.Secret,
 	}
 }

@@ -65,19 +65,19 @@ func TestLogin(t *testing.T) {
 }
 
 func TestWhatAClientMay(t *testing.T) {
-	scopes, targets := []string{"r", "w"}, []string{"t"}
-	clients := []api.Client{{Name: "a", Scopes: scopes, Targets: targets}, {Name: "b", Scopes: targets, Targets: scopes}, {Name: "c"}}
+	scopes, targets, actors := []string{"r", "w"}, []string{"t"}, []string{"x", "y"}
+	clients := []api.Client{{Name: "a", Scopes: scopes, Targets: targets, Actors: actors}, {Name: "b", Scopes: targets, Targets: actors, Actors: scopes}, {Name: "c"}}
 	r, _ := New(clients)
-	scopes[0], targets[0], clients[0] = "?", "?", api.Client{}
-	for _, row := range []struct{ client, scopes, targets string }{{"a", "rw", "t"}, {"b", "t", "rw"}, {"c", "", ""}} {
+	scopes[0], targets[0], actors[0], clients[0] = "?", "?", "?", api.Client{}
+	for _, row := range []struct{ client, scopes, targets, actors string }{{"a", "rw", "t", "xy"}, {"b", "t", "xy", "rw"}, {"c", "", "", ""}} {
 		c, errno := r.Login(api.Login{Name: row.client})
 		if errno != api.OK {
 			t.Fatalf("P2: Login(%s): %d", row.client, errno)
 		}
-		for _, name := range []string{"r", "w", "t", "?", "R", "", "rw", "\xff"} {
+		for _, name := range []string{"r", "w", "t", "x", "y", "?", "R", "", "rw", "\xff"} {
 			has := func(names string) bool { return len(name) == 1 && strings.Contains(names, name) }
-			if c.MayHaveScope(name) != has(row.scopes) || c.MayHaveTarget(name) != has(row.targets) {
-				t.Errorf("P5: %s may have %q: scope %v, target %v", row.client, name, c.MayHaveScope(name), c.MayHaveTarget(name))
+			if c.MayHaveScope(name) != has(row.scopes) || c.MayHaveTarget(name) != has(row.targets) || c.LetsAct(name) != has(row.actors) {
+				t.Errorf("P5: %s and %q: scope %v, target %v, actor %v", row.client, name, c.MayHaveScope(name), c.MayHaveTarget(name), c.LetsAct(name))
 			}
 		}
 	}
