@@ -31,6 +31,16 @@ func (g *Grant) IsAlive(now int) bool {
 	return true
 }
 
+// HasInLine tells whether the client holds this one or one that it came of.
+func (g *Grant) HasInLine(client *roster.Client) bool {
+	for one := g; one != nil; one = one.Parent {
+		if one.Holder == client {
+			return true
+		}
+	}
+	return false
+}
+
 // Ledger has the grants of a server, in the order of their Ids.
 type Ledger struct {
 	grants []*Grant

@@ -104,6 +104,31 @@ func TestIsAlive(t *testing.T) {
 	}
 }
 
+func TestHasInLine(t *testing.T) {
+	var l Ledger
+	var last *Grant
+	var line []*Grant
+	holders := []*roster.Client{{Name: "a"}, {Name: "b"}, {Name: "b"}, {Name: "c"}} // two of one name are two
+	for _, one := range holders {
+		last = l.Add(full(), one, last)
+		line = append(line, last)
+	}
+	beside := l.Add(full(), holder, line[1])
+	for i, one := range holders {
+		for j, g := range line {
+			if g.HasInLine(one) != (i <= j) {
+				t.Errorf("P9: grant %d has the holder of %d in its line: %v", j, i, i > j)
+			}
+		}
+		if beside.HasInLine(one) != (i <= 1) {
+			t.Errorf("P9: the grant beside has the holder of %d in its line: %v", i, i > 1)
+		}
+	}
+	if !beside.HasInLine(holder) || line[3].HasInLine(holder) || line[3].HasInLine(nil) {
+		t.Errorf("P9: a holder that is none, or is not known")
+	}
+}
+
 // spoil writes into a list and behind it.
 func spoil(list []string) {
 	list = list[:cap(list)]

@@ -90,6 +90,10 @@ func TestThirdExample(t *testing.T) {
 			t.Errorf("P9: Look = %+v, %v, %d, want %+v", got, ok, errno, want)
 		}
 	}
+	mustRevoke(t, s, c, first)
+	if got, ok, errno := s.Look(c, second); !same(got, api.Claims{}) || ok || errno != api.OK {
+		t.Errorf("P9: Look of what came of a token that was taken back = %+v, %v, %d", got, ok, errno)
+	}
 }
 
 func TestExchangeWithoutAnActor(t *testing.T) {
@@ -155,7 +159,6 @@ func TestAnActorIsItsSubject(t *testing.T) {
 	}
 	mustTick(t, s, 5)
 	mustNotLook(t, s, eve, api.ErrGrant)
-	s.known.Find(api.Claims{Id: 2, Subject: "eve", Scopes: []string{"y"}, Targets: []string{"v"}, Expiry: 5}).Revoked = true
 	mustLook(t, s, signed(twoKeys()[0], plain(t, says(4, "x w r", "u t", "eve", 90))), says(4, "x w r", "u t", "eve", 90))
 }
 
@@ -371,7 +374,7 @@ func TestExchangeTakesWhatIsAliveAlone(t *testing.T) {
 			line = append(line, mustExchange(t, s, top, line[len(line)-1], wish{life: want.Expiry}, want))
 		}
 		eve := tokenOf(t, s, "eve", 100)
-		s.known.Find(claims[revoked-1]).Revoked = true
+		mustRevoke(t, s, top, line[revoked-1])
 		for i, token := range line {
 			if i+1 >= revoked {
 				mustNotExchange(t, s, top, token, wish{life: 1}, api.ErrGrant)

@@ -90,7 +90,7 @@ func (s *Server) Exchange(who api.Login, token string, actor string, scopes, tar
 			given, errno = s.exchange(client, g, wanted)
 			return errno
 		},
-		refused: func(errno api.Errno) api.Errno { return errno },
+		refused: passOn,
 	})
 	return given, errno
 }
@@ -110,4 +110,6 @@ func (s *Server) Look(who api.Login, token string) (api.Claims, bool, api.Errno)
 }
 
 // Revoke takes a token back (P9).
-func (s *Server) Revoke(who api.Login, token string) api.Errno { return api.OK }
+func (s *Server) Revoke(who api.Login, token string) api.Errno {
+	return s.run(who, token, errand{taken: revoke, refused: passOn})
+}

@@ -26,6 +26,9 @@ func (s *Server) run(who api.Login, token string, e errand) api.Errno {
 	return e.taken(client, g)
 }
 
+// passOn is the answer to a token that is not taken, where the client is to know why.
+func passOn(errno api.Errno) api.Errno { return errno }
+
 // take answers the grant of a token that is taken (P6).
 func (s *Server) take(token string) (*ledger.Grant, api.Errno) {
 	text, errno := s.keys.Open(token)
@@ -41,6 +44,16 @@ func (s *Server) take(token string) (*ledger.Grant, api.Errno) {
 		return nil, api.ErrGrant
 	}
 	return g, api.OK
+}
+
+// revoke takes a grant back for a client; ErrActor, if that one holds none of the grant's line. What came of the grant
+// is not marked: it is the line that tells whether a grant is alive.
+func revoke(client *roster.Client, g *ledger.Grant) api.Errno {
+	if !g.HasInLine(client) {
+		return api.ErrActor
+	}
+	g.Revoked = true
+	return api.OK
 }
 
 // areSomeAllowed tells whether there are names, and each of them may be.

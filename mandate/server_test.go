@@ -7,7 +7,6 @@ import (
 	"testing"
 
 	"mandate/api"
-	"mandate/roster"
 )
 
 var (
@@ -280,9 +279,8 @@ func TestWhatIsNotAliveIsNotTaken(t *testing.T) {
 	mustTick(t, s, 10)
 	mustNotLook(t, s, first, api.ErrGrant)
 	mustLook(t, s, second, given(2, 20))
-	child := s.give(given(0, 20), &roster.Client{Name: top.Name}, s.known.Find(given(2, 20)))
-	mustLook(t, s, child, given(3, 20))
-	s.known.Find(given(2, 20)).Revoked = true
+	child := mustExchange(t, s, top, second, wish{life: 10}, given(3, 20))
+	mustRevoke(t, s, top, second)
 	mustNotLook(t, s, second, api.ErrGrant)
 	mustNotLook(t, s, child, api.ErrGrant)
 }

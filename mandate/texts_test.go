@@ -2,6 +2,7 @@ package mandate
 
 import (
 	"encoding/hex"
+	"math/rand/v2"
 	"slices"
 	"strings"
 	"testing"
@@ -148,6 +149,75 @@ func TestSecondExample(t *testing.T) {
 	for _, text := range []string{strings.Replace(want, ":1,", ":01,", 1), strings.Replace(want, `"exp":9`, `"exp":9,"exp":9`, 1), strings.Replace(want, `"exp":9`, `"exp":9,"iat":9`, 1), strings.Replace(want, `"a\"b"`, `"\ud800"`, 1)} {
 		if got, errno := Parse(text); !same(got, api.Claims{}) || errno != api.ErrForm {
 			t.Errorf("P4: Parse(%s) = %+v, %d", text, got, errno)
+		}
+	}
+}
+
+// anyName answers a name by chance, of up to MaxName bytes.
+func anyName(chance *rand.Rand) string {
+	name := ""
+	for range 1 + chance.IntN(api.MaxName) {
+		signs := []string{string(rune(chance.IntN(128))), "\"", "\\", "/", "\x00", "\x1f", "\x7f", "é", "\u2028", "\ufffd", "\U0010ffff", "a"}
+		if sign := signs[chance.IntN(len(signs))]; len(name)+len(sign) <= api.MaxName {
+			name += sign
+		}
+	}
+	return name
+}
+
+func anyList(chance *rand.Rand) []string {
+	var names []string
+	for range chance.IntN(api.MaxList + 1) {
+		if name := anyName(chance); !slices.Contains(names, name) {
+			names = append(names, name)
+		}
+	}
+	return names
+}
+
+func anyNumber(chance *rand.Rand) int {
+	return []int{0, 1, 10, chance.IntN(100), chance.IntN(api.MaxNumber), api.MaxNumber}[chance.IntN(6)]
+}
+
+func TestParseOfPrint(t *testing.T) {
+	chance := rand.New(rand.NewPCG(10, 1))
+	for range 5000 {
+		c := api.Claims{Id: anyNumber(chance), Subject: anyName(chance), Scopes: anyList(chance), Targets: anyList(chance), Actors: anyList(chance), Expiry: anyNumber(chance)}
+		text, errno := Print(c)
+		if errno != api.OK {
+			t.Fatalf("P4: Print(%+v): %d", c, errno)
+		}
+		if back, errno := Parse(text); !same(back, c) || errno != api.OK {
+			t.Fatalf("P10: Parse(%s) = %+v, %d, want %+v", text, back, errno, c)
+		}
+	}
+}
+
+// No plain text is too long for Parse.
+func TestParseOfTheLongestPrint(t *testing.T) {
+	var names []string
+	for i := range api.MaxList {
+		names = append(names, strings.Repeat("\x1f", api.MaxName-1)+string(rune(i)))
+	}
+	c := api.Claims{Id: api.MaxNumber, Subject: names[0], Scopes: names, Targets: names, Actors: names, Expiry: api.MaxNumber}
+	text, errno := Print(c)
+	if errno != api.OK {
+		t.Fatalf("P4: Print: %d", errno)
+	}
+	if back, errno := Parse(text); !same(back, c) || errno != api.OK {
+		t.Errorf("P10: Parse of %d bytes = %+v, %d", len(text), back, errno)
+	}
+}
+
+func TestUnpackOfPack(t *testing.T) {
+	chance := rand.New(rand.NewPCG(10, 2))
+	for length := range 300 {
+		bytes := make([]byte, length)
+		for i := range bytes {
+			bytes[i] = byte(chance.Uint32())
+		}
+		if back, errno := Unpack(Pack(string(bytes))); back != string(bytes) || errno != api.OK {
+			t.Errorf("P10: Unpack of Pack of %q = %q, %d", bytes, back, errno)
 		}
 	}
 }

@@ -18,7 +18,27 @@ type walk struct {
 	now     int
 	clients []api.Client
 	known   []record
-	seen    [13]int // how often each error was answered
+	seen    counts // of Exchange
+	revoked counts // of Revoke
+}
+
+// counts says how often each error was answered.
+type counts [13]int
+
+func (c *counts) add(more counts) {
+	for i, n := range more {
+		c[i] += n
+	}
+}
+
+// mustBeMet asks for walks that have met each of these answers.
+func (c *counts) mustBeMet(t *testing.T, call string, answers ...api.Errno) {
+	t.Helper()
+	for _, errno := range answers {
+		if c[errno] < 100 {
+			t.Errorf("the walks met the answer %d of %s only %d times", errno, call, c[errno])
+		}
+	}
 }
 
 // record is what a walk knows of a token.
@@ -225,19 +245,40 @@ func (w *walk) consent() {
 		return
 	}
 	c := api.Claims{Id: len(w.known) + 1, Subject: subject[0], Scopes: []string{"x", "w", "r"}, Targets: []string{"u", "t"}, Expiry: w.now + life}
-	token, errno := w.s.Consent(api.Login{Name: "a"}, c.Subject, c.Scopes, c.Targets, life)
+	holder := max(0, w.chance.IntN(8)-5)
+	if own := w.clients[holder]; holder > 0 {
+		c.Scopes, c.Targets = own.Scopes, own.Targets
+	}
+	if len(c.Scopes) == 0 || len(c.Targets) == 0 {
+		return
+	}
+	token, errno := w.s.Consent(api.Login{Name: w.clients[holder].Name}, c.Subject, c.Scopes, c.Targets, life)
 	if errno != api.OK {
 		w.t.Fatalf("P7: Consent: %d", errno)
 	}
-	w.known = append(w.known, record{token: token, claims: c, parent: -1})
+	w.known = append(w.known, record{token: token, claims: c, holder: holder, parent: -1})
 }
 
-// revoke takes a token back from inside.
+// mayRevoke tells whether a client holds a record's token, or one that it came of.
+func (w *walk) mayRevoke(client, i int) bool {
+	return i >= 0 && (w.known[i].holder == client || w.mayRevoke(client, w.known[i].parent))
+}
+
 func (w *walk) revoke() {
-	if i := w.pick(); i >= 0 {
-		w.known[i].revoked = true
-		w.s.known.Find(w.known[i].claims).Revoked = true
+	client, i := w.chance.IntN(len(w.clients)), w.pick()
+	want := w.untaken(i)
+	if want == api.OK && !w.mayRevoke(client, i) {
+		want = api.ErrActor
 	}
+	errno := w.s.Revoke(api.Login{Name: w.clients[client].Name}, w.text(i))
+	if errno != want {
+		w.t.Fatalf("P9: Revoke by %d of %d = %d, want %d", client, i, errno, want)
+	}
+	w.revoked[errno]++
+	if errno == api.OK {
+		w.known[i].revoked = true
+	}
+	w.look()
 }
 
 func (w *walk) look() {
@@ -259,28 +300,24 @@ func (w *walk) step() {
 	case n < 20:
 		w.now += w.chance.IntN(5)
 		mustTick(w.t, w.s, w.now)
-	case n < 21:
+	case n < 24:
 		w.revoke()
 	default:
 		w.exchange()
 	}
 }
 
-func TestExchangeOnManyWalks(t *testing.T) {
-	var seen [13]int
+func TestManyWalks(t *testing.T) {
+	var seen, revoked counts
 	for seed := range uint64(300) {
 		w := newWalk(t, seed)
 		for range 150 {
 			w.step()
 		}
 		w.look()
-		for i, n := range w.seen {
-			seen[i] += n
-		}
+		seen.add(w.seen)
+		revoked.add(w.revoked)
 	}
-	for _, errno := range []api.Errno{api.OK, api.ErrForm, api.ErrGrant, api.ErrActor, api.ErrScope, api.ErrTarget, api.ErrLife, api.ErrFull, api.ErrDeep} {
-		if seen[errno] < 100 {
-			t.Errorf("the walks met the answer %d only %d times", errno, seen[errno])
-		}
-	}
+	seen.mustBeMet(t, "Exchange", api.OK, api.ErrForm, api.ErrGrant, api.ErrActor, api.ErrScope, api.ErrTarget, api.ErrLife, api.ErrFull, api.ErrDeep)
+	revoked.mustBeMet(t, "Revoke", api.OK, api.ErrForm, api.ErrGrant, api.ErrActor)
 }
