@@ -121,29 +121,19 @@ func (f *family) mustBeTakenNowhere(token string, reason api.Errno) {
 func TestWhoMayRevoke(t *testing.T) {
 	for at := range lineLength {
 		for client := range lineLength + 1 {
-			f := newFamily(t)
-			if client > at {
-				f.revoke(clientOf(client), f.line[at], api.ErrActor)
-				f.mustBeGone()
-				continue
+			for _, isBeside := range []bool{false, true} {
+				f := newFamily(t)
+				token, gone := f.line[at], slices.Concat(f.line[at:], f.side[at:])
+				if isBeside {
+					token, gone = f.side[at], f.side[at:at+1]
+				}
+				want := api.OK
+				if client > at {
+					want, gone = api.ErrActor, nil
+				}
+				f.revoke(clientOf(client), token, want)
+				f.mustBeGone(gone...)
 			}
-			f.revoke(clientOf(client), f.line[at], api.OK)
-			f.mustBeGone(slices.Concat(f.line[at:], f.side[at:])...)
-		}
-	}
-}
-
-func TestWhoMayRevokeBesideTheLine(t *testing.T) {
-	for at := range lineLength {
-		for client := range lineLength + 1 {
-			f := newFamily(t)
-			if client > at {
-				f.revoke(clientOf(client), f.side[at], api.ErrActor)
-				f.mustBeGone()
-				continue
-			}
-			f.revoke(clientOf(client), f.side[at], api.OK)
-			f.mustBeGone(f.side[at])
 		}
 	}
 }
